@@ -1,6 +1,9 @@
 package proto
 
-import "turnkey/num"
+import (
+	"turnkey/clone"
+	"turnkey/num"
+)
 
 // integer returns the bytes of an integer.
 func integer(n int) []byte { return num.Put(uint64(n), integerBytes) }
@@ -66,6 +69,8 @@ func (in *input) number(n int) int {
 func (in *input) integer() int { return num.Wrap(in.number(integerBytes), 8*integerBytes) }
 
 func (in *input) text() string { return string(in.take(in.number(lengthBytes))) }
+
+func (in *input) data() []byte { return clone.List(in.take(in.number(lengthBytes))) }
 
 // items reads a list; a list whose elements are missing ends early, since nothing but the shortage counts then.
 func items[T any](in *input, item func() T) []T {
