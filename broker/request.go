@@ -152,6 +152,9 @@ func (q *request) locateFile() error {
 
 // record writes the decision down. Whatever keeps it from being synced keeps the request from being performed.
 func (q *request) record(allow bool) error {
+	if q.Log.Stop {
+		return refuse(api.ErrAudit)
+	}
 	r := api.Record{Op: q.req.Op, Path: q.first.Path, Path2: q.second.Path, Allow: allow}
 	if q.req.Op == api.OpSpawn {
 		r.Digest = policy.Digest(q.args, q.env)

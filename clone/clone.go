@@ -87,10 +87,10 @@ func Kern(k api.Kern) api.Kern {
 // Broker copies a broker.
 func Broker(b api.Broker) api.Broker {
 	b.Policy, b.Kern, b.Log = Policy(b.Policy), Kern(b.Kern), Log(b.Log)
-	b.Trace = Each(b.Trace, func(x api.Issued) api.Issued {
-		x.Args, x.Env = List(x.Args), List(x.Env)
-		return x
-	})
+	b.Trace = List(b.Trace)
+	for i := range b.Trace {
+		b.Trace[i].Args, b.Trace[i].Env = List(b.Trace[i].Args), List(b.Trace[i].Env)
+	}
 	return b
 }
 
