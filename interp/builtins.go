@@ -5,6 +5,7 @@ import (
 	"strings"
 
 	"turnkey/api"
+	"turnkey/clone"
 	"turnkey/field"
 	"turnkey/num"
 	"turnkey/param"
@@ -131,7 +132,7 @@ func (r *run) set(fields []string) {
 	if args[0] == "--" {
 		args = args[1:]
 	}
-	r.Args = slices.Clone(args)
+	r.Args = clone.List(args)
 }
 
 // shift removes the first arguments.
@@ -141,7 +142,7 @@ func (r *run) shift(fields []string) {
 		r.Status = 1
 		return
 	}
-	r.Args = slices.Clone(r.Args[n:])
+	r.Args = clone.List(r.Args[n:])
 	r.Status = 0
 }
 

@@ -6,6 +6,7 @@ import (
 	"strings"
 
 	"turnkey/api"
+	"turnkey/clone"
 	"turnkey/env"
 )
 
@@ -88,7 +89,7 @@ func (r *reader) arguments(words []string) ([]string, bool) {
 	for _, w := range words {
 		r.need(len(w) <= api.MaxArg)
 	}
-	return slices.Clone(words), more
+	return clone.List(words), more
 }
 
 // setting reads a line that keeps, drops or sets settings.
