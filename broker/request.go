@@ -1,13 +1,14 @@
 package broker
 
 import (
+	"strconv"
+
 	"turnkey/api"
 	"turnkey/audit"
 	"turnkey/clone"
 	"turnkey/desc"
 	"turnkey/env"
 	"turnkey/node"
-	"turnkey/num"
 	"turnkey/policy"
 	"turnkey/proto"
 	"turnkey/resolve"
@@ -20,7 +21,7 @@ const none = -1
 type refusal struct{ code api.Errno }
 
 // Error tells the number of the error.
-func (r refusal) Error() string { return "the request fails with error " + num.Dec(int(r.code)) }
+func (r refusal) Error() string { return "the request fails with error " + strconv.Itoa(int(r.code)) }
 
 // refuse returns an error as a refusal, or nil.
 func refuse(e api.Errno) error {
