@@ -83,6 +83,24 @@ func TestAppendAndSync(t *testing.T) {
 	}
 }
 
+// P9.2: both the decrease of Arm and what the operation changed are in the disk that comes back, and the disk handed in stays as it was.
+func TestChangesComeBackTogether(t *testing.T) {
+	for arm, left := range map[int]int{-1: -1, 3: 2} {
+		d := api.Disk{Room: 10, Synced: []byte{9}, Pending: []byte{1}, Arm: arm}
+		got, e := Append(d, []byte{2})
+		if e != api.OK || !reflect.DeepEqual(got, api.Disk{Room: 10, Synced: []byte{9}, Pending: []byte{1, 2}, Arm: left}) {
+			t.Errorf("Append with Arm %d: %+v, %d", arm, got, e)
+		}
+		got, e = Sync(d)
+		if e != api.OK || !reflect.DeepEqual(got, api.Disk{Room: 10, Synced: []byte{9, 1}, Arm: left}) {
+			t.Errorf("Sync with Arm %d: %+v, %d", arm, got, e)
+		}
+		if !reflect.DeepEqual(d, api.Disk{Room: 10, Synced: []byte{9}, Pending: []byte{1}, Arm: arm}) {
+			t.Errorf("Arm %d: the disk handed in became %+v", arm, d)
+		}
+	}
+}
+
 // P9.2
 func TestPower(t *testing.T) {
 	d := api.Disk{Room: 1, Arm: 2}
